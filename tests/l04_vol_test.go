@@ -584,21 +584,26 @@ func someVol(r *rand.Rand) impl.Vol {
 	return v
 }
 
-// someName puts a name into a directory, where it belongs.
+// someName is some name more in a directory, unless it has that one.
 func someName(r *rand.Rand, dir *impl.Inode, id int) {
+	putName(dir, string("ab-."[r.Intn(3)])+strconv.Itoa(r.Intn(40)), id)
+}
+
+// putName puts a name into a directory, where it belongs; false where it has it already.
+func putName(dir *impl.Inode, name string, id int) bool {
 	names := map[string]int{}
 	for _, e := range dir.Names {
 		names[e.Name] = e.Id
 	}
-	word := string("ab-."[r.Intn(3)]) + strconv.Itoa(r.Intn(40))
-	if _, in := names[word]; in {
-		return
+	if _, in := names[name]; in {
+		return false
 	}
-	names[word] = id
+	names[name] = id
 	dir.Names = nil
 	for _, name := range slices.Sorted(maps.Keys(names)) {
 		dir.Names = append(dir.Names, impl.Dirent{Name: name, Id: names[name]})
 	}
+	return true
 }
 
 func sameVol(a, b impl.Vol) bool {
