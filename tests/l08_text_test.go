@@ -618,6 +618,21 @@ func TestReadResultRefuses(t *testing.T) {
 	}
 }
 
+// The Data are what is left behind the Code, none of whose bytes are counted among them.
+func TestReadResultBehindItsCode(t *testing.T) {
+	for s, want := range map[string]impl.Result{
+		"\x00": {}, "\x00abc": {Data: "abc"}, "\x00\x00": {Data: "\x00"}, "\x01": {Code: 1}, "\x7a\x80": {Code: 122, Data: "\x80"}, "\x80\x01": {Code: 128}, "\x80\x01\x80\x01": {Code: 128, Data: "\x80\x01"},
+		"\xc8\x01": {Code: 200}, "\xc8\x01x": {Code: 200, Data: "x"}, "\xc8\x01" + strings.Repeat("x", 400): {Code: 200, Data: strings.Repeat("x", 400)},
+	} {
+		if got, ok := impl.ReadResult(s); !ok || got != want {
+			t.Errorf("ReadResult(%q) = %+v, %v, want %+v", s, got, ok, want)
+		}
+		if got := impl.ShowResult(want); got != s {
+			t.Errorf("ShowResult(%+v) = %q, want %q", want, got, s)
+		}
+	}
+}
+
 func TestReadShortResults(t *testing.T) {
 	taken := 0
 	for _, s := range texts() {
