@@ -170,6 +170,17 @@ func (f form[T]) checkShow(t *testing.T, x T) string {
 	return got
 }
 
+// checkText asks that this is its text, written out by hand.
+func (f form[T]) checkText(t *testing.T, x T, want string) {
+	t.Helper()
+	if got := f.show(x); got != want {
+		t.Errorf("the text of %+v is %q, want %q", x, got, want)
+	}
+	if back, ok := f.read(want); !ok || !f.same(back, x) {
+		t.Errorf("read of %q: %+v, %v", want, back, ok)
+	}
+}
+
 // checkRead reads a text, of something or of nothing.
 func (f form[T]) checkRead(t *testing.T, s string) bool {
 	t.Helper()
@@ -301,12 +312,7 @@ func TestShowVol(t *testing.T) {
 		{rightVol(), right},
 		{edgeVol(), edge},
 	} {
-		if got := impl.ShowVol(c.v); got != c.want {
-			t.Errorf("ShowVol(%+v) = %q, want %q", c.v, got, c.want)
-		}
-		if v, ok := impl.ReadVol(c.want); !ok || !sameVol(v, c.v) {
-			t.Errorf("ReadVol(%q) = %+v, %v", c.want, v, ok)
-		}
+		volForm().checkText(t, c.v, c.want)
 	}
 	for _, v := range textVols() {
 		if volForm().checkShow(t, v) == "" {
@@ -488,12 +494,7 @@ func TestShowCall(t *testing.T) {
 		{impl.Call{Kind: impl.CaAppend, Path: "/f", Data: "a\x00b"}, "\x06\x02/f\x00\x00\x00\x03a\x00b"},
 		{impl.Call{Kind: impl.CaArchive}, "\x16\x00\x00\x00\x00\x00"},
 	} {
-		if got := impl.ShowCall(c.x); got != c.want {
-			t.Errorf("ShowCall(%+v) = %q, want %q", c.x, got, c.want)
-		}
-		if x, ok := impl.ReadCall(c.want); !ok || x != c.x {
-			t.Errorf("ReadCall(%q) = %+v, %v", c.want, x, ok)
-		}
+		callForm().checkText(t, c.x, c.want)
 	}
 	for _, x := range textCalls() {
 		if callForm().checkShow(t, x) == "" {

@@ -82,12 +82,7 @@ func TestShowTenant(t *testing.T) {
 		{impl.NewTenant(), newVol + "\x1e\x00" + "\x00"},
 		{lived, newVol + "\x00\x02" + "\x01\x02\x03\x04\x05" + "\xa0\x8d\x06\x03\xc0\x84\x3d\x16\xc8\x01" + "\x02" + "\x01\x80\x01\x7f\x01\x00" + "\x03\xc0\x84\x3d\xa0\x8d\x06\x06\xc8\x01told"},
 	} {
-		if got := impl.ShowTenant(c.who); got != c.want {
-			t.Errorf("ShowTenant(%+v) = %q, want %q", c.who, got, c.want)
-		}
-		if who, ok := impl.ReadTenant(c.want); !ok || !sameTenant(who, c.who) {
-			t.Errorf("ReadTenant(%q) = %+v, %v", c.want, who, ok)
-		}
+		tenantForm().checkText(t, c.who, c.want)
 	}
 	for _, who := range textTenants() {
 		if tenantForm().checkShow(t, who) == "" {
